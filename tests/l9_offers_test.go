@@ -862,6 +862,28 @@ func copiedOffer(offer []impl.Media) []impl.Media {
 	return list
 }
 
+// overwriteOffer writes marks to all lists of an offer, and behind their ends.
+func overwriteOffer(offer []impl.Media) {
+	for k := range offer {
+		overwrite(offer[k].Codes, markedCode)
+	}
+	overwrite(offer, markedMedia())
+}
+
+// checkListsApart overwrites the lists of a result one after the other, and checks that none shares memory with another one.
+func checkListsApart(t *testing.T, offer []impl.Media) {
+	t.Helper()
+	before, want := copiedOffer(offer), copiedOffer(offer)
+	for k := range offer {
+		overwrite(offer[k].Codes, markedCode)
+		overwrite(want[k].Codes, markedCode)
+		if !sameOffer(offer, want) {
+			t.Errorf("the result %s has lists that share memory: it became %s", shownOffer(before), shownOffer(offer))
+		}
+	}
+	overwrite(offer, markedMedia())
+}
+
 // Promises 11 and 73, and the general rules.
 func TestReadOffersShareNoMemory(t *testing.T) {
 	var lists [][]string
@@ -888,15 +910,7 @@ func checkReadOfferApart(t *testing.T, lines []string) {
 	argument := roomy(lines, markedLine)
 	first, _ := impl.ReadOffer(argument)
 	second, _ := impl.ReadOffer(argument)
-	want := copiedOffer(first)
-	for k := range first {
-		overwrite(first[k].Codes, markedCode)
-		want[k].Codes = slices.Repeat([]string{markedCode}, len(want[k].Codes))
-		if !sameOffer(first, want) {
-			t.Errorf("ReadOffer(%.200q) has lists that share memory: it became %s", lines, shownOffer(first))
-		}
-	}
-	overwrite(first, markedMedia())
+	checkListsApart(t, first)
 	checkUnwritten(t, argument, lines, markedLine)
 	overwrite(argument, markedLine)
 	if again, _ := impl.ReadOffer(lines); !sameOffer(second, again) {
